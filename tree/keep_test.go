@@ -152,11 +152,27 @@ func TestKeepRefuses(t *testing.T) {
 	}
 }
 
-// P8.2: Check's error is each root's: without roots there is none.
+// P8.1, P8.2: more than 2048 pages are said of the state alone, whatever they
+// are and even if there is no root to ask about.
 func TestKeepOfTooManyWithoutRoots(t *testing.T) {
-	many := tree.State{Pages: make([][]byte, 2049)}
-	many.Pages[2048] = pageOf(leafOf(1))
-	wantKeep(t, "too many pages", many, nil, tree.State{}, api.OK)
+	for _, count := range []int{2047, 2048, 2049, 2050, 4096, 1 << 16} {
+		want := api.OK
+		if count > 2048 {
+			want = api.ErrCount
+		}
+		free := tree.State{Pages: make([][]byte, count)}
+		last := cloned(free)
+		last.Pages[count-1] = pageOf(leafOf(1))
+		noPage := cloned(free)
+		noPage.Pages[0] = []byte("no page")
+		for _, s := range []tree.State{free, last, noPage} {
+			for _, roots := range [][]int{nil, {}, {0}, {0, 0, 0}} {
+				if next, err := tree.Keep(s, roots); err != want || len(next.Pages) != 0 {
+					t.Errorf("P8.2: Keep of %d pages, roots %v: %d pages, %d; want %d alone", count, roots, len(next.Pages), err, want)
+				}
+			}
+		}
+	}
 }
 
 // P1: very many roots, of which each is asked.
